@@ -1,0 +1,70 @@
+"""The examples of the interface, as they stand there, and those of README.md."""
+
+import doctest
+import os
+import unittest
+
+README = os.path.join(os.path.dirname(os.path.dirname(os.path.abspath(__file__))), "README.md")
+
+FRACTIONS = """
+>>> from tablemates.fractions import add, divide, fraction
+>>> fraction(6, -4)
+(-3, 2)
+>>> add((1, 2), (-1, 2))
+(0, 1)
+>>> divide((3, 2), (-1, 4))
+(-6, 1)
+"""
+
+DECIMALS = """
+>>> from tablemates.decimals import read_number, show, write_number
+>>> read_number("007.50")
+(15, 2)
+>>> write_number((-25, 2))
+'-12.5'
+>>> show((-15, 2))
+'-15/2'
+"""
+
+TOKENS = """
+>>> from tablemates.tokens import read_address, tokens
+>>> tokens("sum(A1:B2)-1.5x")
+[('word', 'sum'), ('sign', '('), ('address', 'A1'), ('sign', ':'), ('address', 'B2'), ('sign', ')'), ('sign', '-'), ('decimal', '1.5'), ('word', 'x')]
+>>> read_address("AA10")
+(9, 26)
+"""
+
+GRAMMAR = """
+>>> from tablemates.grammar import read_formula
+>>> read_formula("-(A1 + 2) * sum(B2:A1, total)", 2, 2)
+('op', '*', ('neg', ('op', '+', ('cell', 0, 0), ('num', (2, 1)))), ('call', 'sum', (('block', 0, 0, 1, 1), ('name', 'total'))))
+"""
+
+
+class Examples(unittest.TestCase):
+    def check(self, text):
+        found = doctest.DocTestParser().get_doctest(text, {}, "example", None, 0)
+        self.assertGreater(len(found.examples), 1)
+        told = []
+        doctest.DocTestRunner(verbose=False).run(found, out=told.append)
+        self.assertEqual("".join(told), "")
+
+    def test_fractions(self):
+        self.check(FRACTIONS)
+
+    def test_decimals(self):
+        self.check(DECIMALS)
+
+    def test_tokens(self):
+        self.check(TOKENS)
+
+    def test_grammar(self):
+        self.check(GRAMMAR)
+
+    def test_readme(self):
+        with open(README, encoding="utf-8") as file:
+            self.check(file.read())
+
+
+if __name__ == "__main__":
+    unittest.main()
