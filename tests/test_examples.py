@@ -40,6 +40,26 @@ GRAMMAR = """
 ('op', '*', ('neg', ('op', '+', ('cell', 0, 0), ('num', (2, 1)))), ('call', 'sum', (('block', 0, 0, 1, 1), ('name', 'total'))))
 """
 
+EDIT = """
+>>> from tablemates.edit import closed, stamp
+>>> stamp(((2, 1), (3, 0, 0, 0), ("delete", "row", (0, 1))))
+4
+>>> closed([((2, 1), (3, 0, 0, 0), ("delete", "row", (0, 1)))])
+False
+"""
+
+WRITING = """
+>>> from tablemates.writing import write_formula
+>>> write_formula(("op", "-", ("cell", 0, 0), ("op", "-", ("cell", 0, 1), ("neg", ("num", (1, 2))))))
+'A1 - (B1 - -0.5)'
+"""
+
+WIRE = """
+>>> from tablemates.wire import write_update
+>>> write_update((2, 2), [((1, 1), (0, 0, 0, 0), ("write", (((0, 1), (0, 2), ("number", (-3, 2))),)))])
+[2, 2, 1, 1, 1, 0, 0, 0, 0, 2, 1, 0, 1, 0, 2, 2, 5, 2]
+"""
+
 
 class Examples(unittest.TestCase):
     def check(self, text):
@@ -60,6 +80,15 @@ class Examples(unittest.TestCase):
 
     def test_grammar(self):
         self.check(GRAMMAR)
+
+    def test_writing(self):
+        self.check(WRITING)
+
+    def test_edit(self):
+        self.check(EDIT)
+
+    def test_wire(self):
+        self.check(WIRE)
 
     def test_readme(self):
         with open(README, encoding="utf-8") as file:
