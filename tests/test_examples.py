@@ -60,6 +60,14 @@ WIRE = """
 [2, 2, 1, 1, 1, 0, 0, 0, 0, 2, 1, 0, 1, 0, 2, 2, 5, 2]
 """
 
+LIVE = """
+>>> from tablemates.orders import line_order
+>>> one = ((1, 1), (0, 0, 0, 0), ("insert", "row", (0, 1), (0, 2)))
+>>> two = ((2, 1), (0, 0, 0, 0), ("insert", "row", (0, 1), (0, 2)))
+>>> line_order((2, 0), [one, two], "row")
+[(0, 1), (2, 1), (1, 1), (0, 2)]
+"""
+
 
 class Examples(unittest.TestCase):
     def check(self, text):
@@ -89,6 +97,9 @@ class Examples(unittest.TestCase):
 
     def test_wire(self):
         self.check(WIRE)
+
+    def test_live(self):
+        self.check(LIVE)
 
     def test_readme(self):
         with open(README, encoding="utf-8") as file:
