@@ -68,6 +68,14 @@ LIVE = """
 [(0, 1), (2, 1), (1, 1), (0, 2)]
 """
 
+EVALUATION = """
+>>> from tablemates.evaluation import evaluate
+>>> from tablemates.grammar import read_formula
+>>> from tablemates.grids import Grid
+>>> evaluate(Grid(2, 2), read_formula("sum(A1:B2) / 4", 2, 2), {(0, 0): ("number", (1, 1)), (1, 1): ("text", "x")})
+('number', (1, 4))
+"""
+
 
 class Examples(unittest.TestCase):
     def check(self, text):
@@ -100,6 +108,9 @@ class Examples(unittest.TestCase):
 
     def test_live(self):
         self.check(LIVE)
+
+    def test_evaluation(self):
+        self.check(EVALUATION)
 
     def test_readme(self):
         with open(README, encoding="utf-8") as file:
