@@ -42,8 +42,11 @@ def _without_gap(edits, person):
     return numbers == list(range(1, len(numbers) + 1))
 
 
-def _fits(edit, edits, held):
-    """Whether the version of the edit is one of a copy that held only edits of this list."""
+def fits(edit, edits, held):
+    """Whether the version of the edit is one of a copy that held only edits of this list.
+
+    The version `held` counts only ids of the list.
+    """
     person, number = edit[0]
     if person not in PERSONS or edit[1][person - 1] != number - 1:
         return False
@@ -57,4 +60,4 @@ def closed(edits):
     if not all([_without_gap(edits, person) for person in PERSONS]):
         return False
     held = version_of(edits)
-    return all([_fits(edit, edits, held) for edit in edits])
+    return all([fits(edit, edits, held) for edit in edits])

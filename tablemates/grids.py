@@ -66,3 +66,34 @@ def same(grid, other):
     if not all([grid.shown(cell) == other.shown(cell) for cell in grid.cells()]):
         return False
     return all([grid.areas(word) == other.areas(word) for word in grid.words()])
+
+
+def _with_lines_moved(grid, axis, many, moved):
+    """A grid with so many lines more; the function `moved` tells where a line is then, None for nowhere."""
+    if axis == "row":
+        found = Grid(grid.rows + many, grid.columns)
+    else:
+        found = Grid(grid.rows, grid.columns + many)
+    for row, column in grid.cells():
+        cell = (moved(row), column) if axis == "row" else (row, moved(column))
+        if None not in cell:
+            found.put(cell, grid.shown((row, column)))
+    for word in grid.words():
+        found.name(word, grid.areas(word))
+    return found
+
+
+def with_line(grid, axis, index):
+    """The grid with a blank line put in at this index, all contents and names as they are."""
+    return _with_lines_moved(grid, axis, 1, lambda line: line + 1 if line >= index else line)
+
+
+def without_line(grid, axis, index):
+    """The grid with the line of this index taken out, all other contents and the names as they are."""
+
+    def moved(line):
+        if line == index:
+            return None
+        return line - 1 if line > index else line
+
+    return _with_lines_moved(grid, axis, -1, moved)

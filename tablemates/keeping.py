@@ -7,7 +7,7 @@ from tablemates.trees import mapped
 GONE_PART = ("gone",)
 
 
-def _with_tree(content, changed):
+def with_tree(content, changed):
     """The content with the tree that the function `changed` returns for its own, if it has one."""
     return ("formula", changed(content[1])) if content[0] == "formula" else content
 
@@ -30,7 +30,7 @@ def keep_tree(view, tree):
 
 def keep_content(view, content):
     """What is kept of a placed content."""
-    return _with_tree(content, lambda tree: keep_tree(view, tree))
+    return with_tree(content, lambda tree: keep_tree(view, tree))
 
 
 def _place_cell(view, cell):
@@ -62,7 +62,7 @@ def place_tree(view, seen, tree):
 
 def place_content(view, seen, content):
     """A kept content of an edit with the version `seen`, as a placed one."""
-    return _with_tree(content, lambda tree: place_tree(view, seen, tree))
+    return with_tree(content, lambda tree: place_tree(view, seen, tree))
 
 
 def place_blocks(view, seen, blocks):
@@ -96,4 +96,4 @@ def moved_tree(tree, down, right, rows, columns):
 
 def moved_content(content, down, right, rows, columns):
     """A placed content, moved likewise."""
-    return _with_tree(content, lambda tree: moved_tree(tree, down, right, rows, columns))
+    return with_tree(content, lambda tree: moved_tree(tree, down, right, rows, columns))

@@ -26,6 +26,15 @@ def shown_writes(view, row, column):
     return _uncovered(told)
 
 
+def all_shown_writes(view):
+    """The dict from all cells that are written, as tuples of line ids, to what is shown in them."""
+    told = {}
+    for edit in _standing(view, "write"):
+        for row, column, content in edit[2][1]:
+            told.setdefault((row, column), []).append((edit, content))
+    return {cell: _uncovered(told[cell]) for cell in told}
+
+
 def shown_names(view, word):
     """The list of the tuples (id, blocks) of what is shown of a name."""
     return _uncovered([(edit, edit[2][2]) for edit in _standing(view, "name") if edit[2][1] == word])

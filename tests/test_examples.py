@@ -76,6 +76,26 @@ EVALUATION = """
 ('number', (1, 4))
 """
 
+SHEET = """
+>>> from tablemates.sheet import Sheet
+>>> one = Sheet(1, 2, 2)
+>>> one.write_block((0, 0), [["3", "= A1 * 2"]])
+(1, 1)
+>>> two = one.copy_for(2)
+>>> two.insert("row", 0)
+(2, 1)
+>>> one.write((0, 0), "5")
+(1, 2)
+>>> two.write((1, 0), "4")
+(2, 2)
+>>> one.take(two.update(one.version()))
+2
+>>> one.texts((1, 0)), one.texts((1, 1))
+(['5', '4'], ['=A2 * 2'])
+>>> one.all_values()[(1, 1)]
+('fault', 'clash')
+"""
+
 
 class Examples(unittest.TestCase):
     def check(self, text):
@@ -111,6 +131,9 @@ class Examples(unittest.TestCase):
 
     def test_evaluation(self):
         self.check(EVALUATION)
+
+    def test_sheet(self):
+        self.check(SHEET)
 
     def test_readme(self):
         with open(README, encoding="utf-8") as file:

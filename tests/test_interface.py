@@ -28,6 +28,13 @@ FUNCTIONS = {
     "reading": "blocks_of(grid, area); cells_read(grid, cell)",
     "evaluation": "evaluate(grid, tree, known); value_from(grid, cell, known)",
     "rings": "ring_cells(grid); ring_of(grid, cell); values_of(grid)",
+    "states": "grid_of(view)",
+    "actions": """insert_action(view, axis, index); delete_action(view, axis, index); write_action(view, cell, texts);
+        copy_action(view, block, cell); name_action(view, word, blocks); undo_action(edits, person);
+        redo_action(edits, person)""",
+    "checking": "possible(begin, edits, edit); check(begin, edits)",
+    "looking": """known(edits, version); versions(edits); at(edits, version); grid_at(begin, edits, version);
+        grid_without(begin, edits, persons)""",
 }
 
 CLASSES = {
@@ -38,6 +45,14 @@ CLASSES = {
                        "copy(self)",
     ("ledgers", "Ledger"): "__init__(self, grid); put(self, cell, shown); name(self, word, areas); "
                            "unname(self, word); value(self, cell); all_values(self); counted(self)",
+    ("sheet", "Sheet"): "__init__(self, person, rows, columns); person(self); begin(self); edits(self); version(self); "
+                        "copy_for(self, person); insert(self, axis, index); delete(self, axis, index); "
+                        "write(self, cell, text); write_block(self, cell, texts); copy(self, block, cell); "
+                        "name(self, word, blocks); undo(self); redo(self); grid(self); all_values(self); "
+                        "texts(self, cell); writers(self, cell); update(self, version); take(self, data)",
+    ("plain", "Plain"): "__init__(self, rows, columns); insert(self, axis, index); delete(self, axis, index); "
+                        "write(self, cell, text); write_block(self, cell, texts); copy(self, block, cell); "
+                        "name(self, word, blocks); grid(self)",
 }
 
 
