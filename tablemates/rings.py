@@ -11,7 +11,7 @@ def reads_of(grid):
     return {cell: cells_read(grid, cell) for cell in grid.cells()}
 
 
-def _readers_of(reads):
+def readers_of(reads):
     """The dict from each cell that is read to the list of the cells that read it."""
     readers = {}
     for cell in reads:
@@ -22,7 +22,7 @@ def _readers_of(reads):
 
 def in_sequence(reads):
     """The cells of this dict, each behind those of them that it reads; those that lead into a ring are left out."""
-    readers = _readers_of(reads)
+    readers = readers_of(reads)
     missing = {cell: len([other for other in reads[cell] if other in reads]) for cell in reads}
     found = [cell for cell in reads if missing[cell] == 0]
     at = 0
@@ -49,19 +49,26 @@ def _reached(steps, start):
     return found
 
 
-def cells_in_rings(reads):
-    """The sorted list of the cells of this dict that depend on themselves."""
-    readers = _readers_of(reads)
+def knots_in(reads):
+    """The list of the knots of the cells of this dict that depend on themselves, each as a sorted list."""
+    readers = readers_of(reads)
     safe = {cell: True for cell in in_sequence(reads)}
-    found = {}
+    told = {}
+    found = []
     for cell in reads:
-        if cell not in safe and cell not in found:
+        if cell not in safe and cell not in told:
             # The cells that it reads over some steps, and that read it over some, stand in a row with it.
             behind = _reached(readers, cell)
-            for other in _reached(reads, cell):
-                if other in behind:
-                    found[other] = True
-    return sorted(found)
+            knot = sorted([other for other in _reached(reads, cell) if other in behind])
+            if knot != []:
+                found.append(knot)
+                told.update({other: True for other in knot})
+    return found
+
+
+def cells_in_rings(reads):
+    """The sorted list of the cells of this dict that depend on themselves."""
+    return sorted([cell for knot in knots_in(reads) for cell in knot])
 
 
 def ring_cells(grid):
@@ -71,7 +78,7 @@ def ring_cells(grid):
 
 def _steps_to(reads, cell):
     """The dict from the cells that lead to a cell to the least number of their steps to it."""
-    readers = _readers_of(reads)
+    readers = readers_of(reads)
     steps = {cell: 0}
     found = [cell]
     at = 0

@@ -134,7 +134,7 @@ def write_update(begin, edits):
 
 
 class Reader:
-    """Reads the integers of an update, one after the other."""
+    """Reads the integers of bytes, one after the other."""
 
     def __init__(self, data):
         self.source = data
@@ -142,19 +142,25 @@ class Reader:
         # How many trees and areas the present tree may still have.
         self.room = 0
 
-    def number(self, least, most):
-        """The next integer; raises InvalidBytes if there is none, or not one from least to most."""
+    def integer(self):
+        """The next integer; raises InvalidBytes if there is none."""
         end = self.at
         while end < len(self.source) and self.source[end] >= 128:
             end = end + 1
-        if end == len(self.source) or (end > self.at and self.source[end] == 0):
+        if end >= len(self.source) or (end > self.at and self.source[end] == 0):
             raise InvalidBytes(self.at)
         n = 0
         for byte in reversed(self.source[self.at:end + 1]):
             n = n * 128 + byte % 128
-        if not least <= n <= most:
-            raise InvalidBytes(self.at)
         self.at = end + 1
+        return n
+
+    def number(self, least, most):
+        """The next integer; raises InvalidBytes if there is none, or not one from least to most."""
+        start = self.at
+        n = self.integer()
+        if not least <= n <= most:
+            raise InvalidBytes(start)
         return n
 
     def choice(self, words):

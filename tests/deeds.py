@@ -15,6 +15,7 @@ from tablemates.errors import TableError
 from tablemates.grids import Grid, same
 from tablemates.sheet import Sheet
 from tablemates.view import View
+from tablemates.wire import write_update
 
 PLAIN_TEXTS = ("", "", "1", "-2.5", "007", "a", "A text!", " 12", "-", "12 a", "0")
 BAD_TEXTS = ("=", "=A1 +", "=Z99", "=sum()", "=x", "=(A1", "=" + "1+" * 16 + "1", "=((((((((1))))))))")
@@ -95,6 +96,11 @@ def everything(sheet):
         sheet.begin(), sheet.edits(), sheet.version(), content_of(grid), sheet.all_values(),
         {cell: sheet.texts(cell) for cell in cells}, {cell: sheet.writers(cell) for cell in cells},
         sheet.update((0, 0, 0, 0)))
+
+
+def update_of(sheet, edits):
+    """The update of a copy's beginning with these edits."""
+    return write_update(sheet.begin(), edits)
 
 
 def content_of(grid):

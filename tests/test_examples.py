@@ -96,6 +96,13 @@ SHEET = """
 ('fault', 'clash')
 """
 
+JUDGE = """
+>>> from tablemates.judge import judge
+>>> judge((1, 2, [], [], [(0, 0, ("2",), "2"), (0, 1, ("=A1 * 3",), "6")]))
+>>> judge((1, 2, [], [], [(0, 1, ("=A1 * 3",), "6"), (0, 0, ("2",), "2")]))
+(3, 0)
+"""
+
 
 class Examples(unittest.TestCase):
     def check(self, text):
@@ -134,6 +141,9 @@ class Examples(unittest.TestCase):
 
     def test_sheet(self):
         self.check(SHEET)
+
+    def test_judge(self):
+        self.check(JUDGE)
 
     def test_readme(self):
         with open(README, encoding="utf-8") as file:

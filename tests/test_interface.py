@@ -35,6 +35,13 @@ FUNCTIONS = {
     "checking": "possible(begin, edits, edit); check(begin, edits)",
     "looking": """known(edits, version); versions(edits); at(edits, version); grid_at(begin, edits, version);
         grid_without(begin, edits, persons)""",
+    "differences": "difference(begin, edits, first, second); led(grid, records)",
+    "tales": "tale(begin, edits, cell); authors(begin, edits)",
+    "paper": "paper_of(grid); value_text(value)",
+    "judge": "judge(paper); grid_of(paper)",
+    "records": "sum_of(data); record_of(body); read_record(data, at)",
+    "logs": "opened(data, person)",
+    "digests": "digest(sheet); compare(sheet, data)",
 }
 
 CLASSES = {
@@ -53,6 +60,7 @@ CLASSES = {
     ("plain", "Plain"): "__init__(self, rows, columns); insert(self, axis, index); delete(self, axis, index); "
                         "write(self, cell, text); write_block(self, cell, texts); copy(self, block, cell); "
                         "name(self, word, blocks); grid(self)",
+    ("logs", "Log"): "__init__(self, sheet); keep(self, sheet); data(self)",
 }
 
 
