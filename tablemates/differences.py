@@ -54,7 +54,7 @@ def difference(begin, edits, first, second):
     return records + _names_records(old_grid, new_grid)
 
 
-def _set(grid, record):
+def _set_shown(grid, record):
     """Sets the cell or the name of a record."""
     kind, place, told = record
     if kind == "cell":
@@ -74,5 +74,5 @@ def led(grid, records):
         elif record[0] == "inserted":
             found = with_line(found, record[1], record[2])
         else:
-            _set(found, record)
+            _set_shown(found, record)
     return found

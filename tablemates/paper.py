@@ -1,6 +1,6 @@
 """Papers: evidence for everything that a grid shows."""
 
-from heapq import heapify, heappop, heappush
+from heapq import heappop, heappush
 
 from tablemates.contents import write_content
 from tablemates.decimals import show
@@ -57,8 +57,8 @@ def _knot_by_knot(reads):
         knots.setdefault(start, []).append(cell)
         outside = [other for other in reads[cell] if other in reads and first[other] != start]
         missing[start] = missing.get(start, 0) + len(outside)
+    # They come sorted, and a sorted list is a heap.
     ready = [start for start in missing if missing[start] == 0]
-    heapify(ready)
     found = []
     while ready != []:
         knot = knots[heappop(ready)]

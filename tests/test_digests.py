@@ -54,6 +54,17 @@ class Digests(unittest.TestCase):
         one.take(two.update(EMPTY))
         self.assertEqual((compare(one, digest(two)), compare(one, digest(one))), ((0, 0), (0, 0)))
 
+    def test_f3_compare_counts_the_edits_of_all_persons(self):
+        sheets = [written(Sheet(person, 2, 2), *"abcd"[:person]) for person in (1, 2, 3, 4)]
+        for one in sheets:
+            for other in sheets:
+                if one.person() != other.person():
+                    self.assertEqual(compare(one, digest(other)), (one.person(), other.person()))
+        for other in sheets[1:]:
+            sheets[0].take(other.update(EMPTY))
+        self.assertEqual(compare(sheets[0], digest(Sheet(1, 2, 2))), (10, 0))
+        self.assertEqual(compare(Sheet(1, 2, 2), digest(sheets[0])), (0, 10))
+
     def test_f3_no_digest(self):
         sheet = written(Sheet(1, 2, 2), "1")
         data = digest(sheet)

@@ -69,7 +69,7 @@ class Parts(Judged):
         for area in (
                 ("block", 0, 0, 2, 0), ("block", 0, 0, 0, 3), ("block", 1, 0, 0, 0), ("block", 0, 1, 0, 0),
                 ("block", -1, 0, 0, 0), ("block", 0, -1, 0, 0), ("name", "cd"), ("gone", 1), ("block", 0, 0, 0),
-                ("block", 0, 0, 0, 0, 0), (), ("block", 0, 0, None, 0), ("cell", 0, 0), None, 3, "gone", ["gone"]):
+                ("block", 0, 0, 0, 0, 0), (), ("block", 0, 0, None, 0), ("block", None, 0, 0, 0), ("area", 0, 0, 0, 0), ("cell", 0, 0), None, 3, "gone", ["gone"]):
             self.names([("ab", (area,))], (1, 0))
             self.names([("aa", None), ("ab", (gone, area))], (1, 1))
         for areas in ((), [], [gone], "gone", 4):
@@ -82,6 +82,8 @@ class Parts(Judged):
         self.names([()], (1, 0))
         self.names([("ab",)], (1, 0))
         self.names([("ab", None, None)], (1, 0))
+        self.names([["ab", None]], (1, 0))
+        self.entries([[0, 0, ("2",), "2"]], (3, 0))
         self.entries([()], (3, 0))
         self.entries([TWO, (1, 1)], (3, 1))
         self.entries([(None, 0, ("2",), "2")], (3, 0))
@@ -207,6 +209,11 @@ class Rings(Judged):
         self.entries([(0, 0, ("=B1 + A3",), "!ring"), self.B, one], (3, 0), [self.AB])
         self.entries([(0, 0, ("=B1 + C1",), "!ring"), self.B, self.C], None, [self.AB, [(0, 2)]])
         self.entries([(0, 0, ("=B1 + C1",), "!ring"), self.B, one, self.C], (3, 0), [self.AB, [(0, 2)]])
+
+    def test_p3_what_tells_no_cell_stands_in_no_run(self):
+        self.entries([self.A, (), self.B], (3, 0), [self.AB, [()]])
+        self.entries([self.A, (9, None, ("1",), "1"), self.B], (3, 0), [self.AB, [(9, None)]])
+        self.entries([self.A, (9, 9, ("1",), "1"), self.B], (3, 1), [self.AB, [(9, 9)]])
 
     def test_p3_a_cell_of_no_ring_does_not_read_in_its_run(self):
         # D is read by A and reads B, but stands in no ring of the paper.

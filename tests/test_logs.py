@@ -57,7 +57,7 @@ class Writing(unittest.TestCase):
 
     def test_f2_data_is_new_each_time(self):
         log = Log(written(Sheet(1, 2, 2)))
-        before = log.data()
+        before = list(log.data())
         log.data().clear()
         log.data().append(4)
         self.assertEqual(log.data(), before)
