@@ -33,7 +33,8 @@ def _rings_told(grid, reads):
         if cell not in told:
             ring = ring_of(grid, cell)
             found.append(ring)
-            told.update({other: True for other in ring})
+            for other in ring:
+                told[other] = True
     return found
 
 
@@ -41,7 +42,8 @@ def _first_cells(reads):
     """The dict from each cell to the first one of its knot."""
     first = {cell: cell for cell in reads}
     for knot in knots_in(reads):
-        first.update({cell: knot[0] for cell in knot})
+        for cell in knot:
+            first[cell] = knot[0]
     return first
 
 

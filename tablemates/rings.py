@@ -62,7 +62,8 @@ def knots_in(reads):
             knot = sorted([other for other in _reached(reads, cell) if other in behind])
             if knot != []:
                 found.append(knot)
-                told.update({other: True for other in knot})
+            for other in knot:
+                told[other] = True
     return found
 
 
